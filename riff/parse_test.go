@@ -366,6 +366,9 @@ func TestManyChunksInFiles(t *testing.T) {
 		refuses(t, "a tag of 3, and too many", swapped(float, at, "\x03"), api.ErrUnsupported)
 	}
 	refuses(t, "a second data", many("RIFF", api.MaxChunks-2, "data\x00\x00\x00\x00"), api.ErrLarge)
+	refuses(t, "a second data in RF64", many("RF64", api.MaxChunks-3, "data\xff\xff\xff\xff12"), api.ErrLarge)
+	refuses(t, "a second data in RF64, with its own length", many("RF64", api.MaxChunks-3, "data\x02\x00\x00\x0012"), api.ErrMalformed)
+	refuses(t, "a second ds64 in RF64", many("RF64", api.MaxChunks-3, "ds64\x00\x00\x00\x00"), api.ErrLarge)
 	// fmt and data may be the last two.
 	s := strings.Repeat("abcd\x00\x00\x00\x00", api.MaxChunks-2) + example[fmtAt:]
 	refuses(t, "fmt and data at the end", numbered(example[:fmtAt]+s), api.OK)
