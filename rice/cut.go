@@ -19,7 +19,7 @@ func cutOf(block, order, power int) (cut, bool) {
 
 // areOf says whether there is such a block, and such a predictor's order.
 func areOf(block, order int) bool {
-	return block >= 1 && block <= maxBlock && order >= 0 && order <= maxBehind
+	return block >= 1 && block <= maxBlock && order >= 0 && order <= maxPredictor
 }
 
 // count is how many residuals there are in all.
