@@ -5,6 +5,7 @@ import (
 
 	"lacquer/api"
 	"lacquer/frame"
+	"lacquer/measure"
 	"lacquer/meta"
 	"lacquer/pcm"
 )
@@ -120,12 +121,12 @@ func cut(planes [][]int, from, to int) [][]int {
 
 // layFrame lays a frame that frame.Check takes; false, if it cannot have these samples.
 func (d *draft) layFrame(f api.Frame, planes [][]int) bool {
-	zeros, ok := zerosOf(f, planes)
-	if !ok {
+	size := measure.Frame(f, d.info.Width, planes)
+	if size < 0 {
 		return false
 	}
-	if atLeast := zeros / 8; !d.hasRoom(atLeast) {
-		d.size += atLeast
+	if !d.hasRoom(size) {
+		d.size += size
 		return true
 	}
 	s, e := frame.Build(f, d.info, planes)
